@@ -60,6 +60,20 @@ func tubesNearAt(a impl.ProbeTube, b impl.ProbeTube, tick int) bool {
 	return false
 }
 
+// firstMeet goes from tick to tick, and at each one over all pairs of boxes of two tubes that are ok.
+func firstMeet(a impl.ProbeTube, b impl.ProbeTube) (impl.ProbeClash, bool) {
+	for tick := 0; tick <= 10000; tick++ {
+		for i, p := range a.Boxes {
+			for j, q := range b.Boxes {
+				if nearAt(p, q, tick) {
+					return impl.ProbeClash{A: a.Name, B: b.Name, Tick: tick, I: i, J: j}, true
+				}
+			}
+		}
+	}
+	return impl.ProbeClash{}, false
+}
+
 func boxWithin(a impl.ProbeBox, b impl.ProbeBox) bool {
 	return a.X == b.X && a.Y == b.Y &&
 		b.Low <= a.Low && a.Low <= b.High && b.Low <= a.High && a.High <= b.High &&
