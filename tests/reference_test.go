@@ -90,9 +90,142 @@ func tubeWithin(a impl.ProbeTube, b impl.ProbeTube) bool {
 	return true
 }
 
+// indexBy is the index of tubes that are ok together: it goes from cell to cell, and takes
+// of the boxes there the least one that is left.
+func indexBy(list []impl.ProbeTube) impl.ProbeIndex {
+	var x impl.ProbeIndex
+	for at := range 256 {
+		slots := slotsIn(list, at/16, at%16)
+		if len(slots) == 0 {
+			continue
+		}
+		cell := impl.ProbeCell{X: at / 16, Y: at % 16}
+		for len(slots) > 0 {
+			least := 0
+			for i := range slots {
+				if slotAhead(slots[i], slots[least]) {
+					least = i
+				}
+			}
+			cell.Slots = append(cell.Slots, slots[least])
+			slots = slices.Delete(slots, least, least+1)
+		}
+		x.Cells = append(x.Cells, cell)
+	}
+	return x
+}
+
+func slotsIn(list []impl.ProbeTube, x int, y int) []impl.ProbeSlot {
+	var slots []impl.ProbeSlot
+	for _, t := range list {
+		for at, b := range t.Boxes {
+			if b.X == x && b.Y == y {
+				slots = append(slots, impl.ProbeSlot{In: b.In, Out: b.Out, Low: b.Low, High: b.High, Name: t.Name, At: at})
+			}
+		}
+	}
+	return slots
+}
+
+func slotAhead(p impl.ProbeSlot, q impl.ProbeSlot) bool {
+	if p.In != q.In {
+		return p.In < q.In
+	}
+	if p.Name != q.Name {
+		return p.Name < q.Name
+	}
+	return p.At < q.At
+}
+
+// askBy is what an index, as it is, tells of a tube that is ok: for each name but its own
+// the least of all its clashes.
+func askBy(x impl.ProbeIndex, t impl.ProbeTube) []impl.ProbeClash {
+	var clashes []impl.ProbeClash
+	for _, name := range namesIn(x) {
+		all := clashesWith(x, t, name)
+		if name == t.Name || len(all) == 0 {
+			continue
+		}
+		clashes = append(clashes, slices.MinFunc(all, func(p impl.ProbeClash, q impl.ProbeClash) int {
+			return slices.Compare([]int{p.Tick, p.I, p.J}, []int{q.Tick, q.I, q.J})
+		}))
+	}
+	return clashes
+}
+
+func namesIn(x impl.ProbeIndex) []string {
+	var names []string
+	for _, cell := range x.Cells {
+		for _, slot := range cell.Slots {
+			names = append(names, slot.Name)
+		}
+	}
+	slices.Sort(names)
+	return slices.Compact(names)
+}
+
+// clashesWith is all clashes of a tube and the boxes of a name, by ProbeClose.
+func clashesWith(x impl.ProbeIndex, t impl.ProbeTube, name string) []impl.ProbeClash {
+	var all []impl.ProbeClash
+	for i, b := range t.Boxes {
+		for _, cell := range x.Cells {
+			for _, slot := range cell.Slots {
+				other := impl.ProbeBox{X: cell.X, Y: cell.Y, Low: slot.Low, High: slot.High, In: slot.In, Out: slot.Out}
+				if tick, near := impl.ProbeClose(b, other); near && slot.Name == name {
+					all = append(all, impl.ProbeClash{A: t.Name, B: name, Tick: tick, I: i, J: slot.At})
+				}
+			}
+		}
+	}
+	return all
+}
+
+// happenBy is the tubes behind an event, and the code, in the order of the document's words.
+func happenBy(list []impl.ProbeTube, e impl.ProbeEvent) ([]impl.ProbeTube, int) {
+	if !impl.ProbeSkyOk(list) {
+		return nil, 1
+	}
+	if !e.Drop && !impl.ProbeTubeOk(e.Tube) {
+		return list, 2
+	}
+	var behind []impl.ProbeTube
+	for _, t := range list {
+		if t.Name != e.Tube.Name {
+			behind = append(behind, t)
+		}
+	}
+	none := len(behind) == len(list)
+	if e.Drop && none {
+		return list, 3
+	}
+	if e.Drop {
+		return behind, 0
+	}
+	if none && len(list) == 24 {
+		return list, 4
+	}
+	behind = append(behind, e.Tube)
+	for i := len(behind) - 1; i > 0 && behind[i].Name < behind[i-1].Name; i-- {
+		behind[i], behind[i-1] = behind[i-1], behind[i]
+	}
+	return behind, 0
+}
+
 // sameTube takes the empty list and the nil list for the same.
 func sameTube(a impl.ProbeTube, b impl.ProbeTube) bool {
 	return a.Name == b.Name && slices.Equal(a.Boxes, b.Boxes)
+}
+
+func sameSky(a []impl.ProbeTube, b []impl.ProbeTube) bool {
+	return slices.EqualFunc(a, b, sameTube)
+}
+
+func sameCell(a impl.ProbeCell, b impl.ProbeCell) bool {
+	return a.X == b.X && a.Y == b.Y && slices.Equal(a.Slots, b.Slots)
+}
+
+func sameIndex(a impl.ProbeIndex, b impl.ProbeIndex) bool {
+	return slices.EqualFunc(a.Cells, b.Cells, sameCell)
 }
 
 func isNothing(t impl.ProbeTube) bool {
