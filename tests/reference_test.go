@@ -1,9 +1,13 @@
 package tests
 
 import (
+	"fmt"
 	"math"
 	"math/rand/v2"
+	"regexp"
 	"slices"
+	"strconv"
+	"strings"
 
 	"loop.example/lapprobe/impl"
 )
@@ -209,6 +213,135 @@ func happenBy(list []impl.ProbeTube, e impl.ProbeEvent) ([]impl.ProbeTube, int) 
 		behind[i], behind[i-1] = behind[i-1], behind[i]
 	}
 	return behind, 0
+}
+
+// forms are the lines of the document's table.
+var forms = map[string]*regexp.Regexp{}
+
+func init() {
+	words := strings.NewReplacer("NAME", "([^ ]*)", "N", "(0|[1-9][0-9]{0,4})")
+	for _, form := range []string{"tube NAME", "box N N N N N N", "put", "drop NAME", "all", "with", "free", "meet NAME NAME", "cut N"} {
+		forms[form] = regexp.MustCompile(`\A` + words.Replace(form) + `\z`)
+	}
+}
+
+// formOf is the form that a line has, if it has one, and the words of it that are NAME or N.
+func formOf(line string) (string, []string) {
+	for form, pattern := range forms {
+		if found := pattern.FindStringSubmatch(line); found != nil {
+			return form, found[1:]
+		}
+	}
+	return "", nil
+}
+
+// teller is a session that goes by the document's table, line by line.
+type teller struct {
+	tubes []impl.ProbeTube
+	hand  impl.ProbeTube
+}
+
+func (s *teller) answer(line string) string {
+	form, words := formOf(line)
+	var n []int
+	for _, word := range words {
+		number, _ := strconv.Atoi(word)
+		n = append(n, number)
+	}
+	switch form {
+	case "tube NAME":
+		s.hand = impl.ProbeTube{Name: words[0]}
+		return "ok"
+	case "box N N N N N N":
+		box := impl.ProbeBox{X: n[0], Y: n[1], Low: n[2], High: n[3], In: n[4], Out: n[5]}
+		if !boxOk(box) || len(s.hand.Boxes) == 40 {
+			return "no"
+		}
+		s.hand.Boxes = append(slices.Clip(s.hand.Boxes), box)
+		return "ok"
+	case "put":
+		return s.happen(impl.ProbeEvent{Tube: s.hand})
+	case "drop NAME":
+		return s.happen(impl.ProbeEvent{Drop: true, Tube: impl.ProbeTube{Name: words[0]}})
+	case "all":
+		return tellClashes("none", everyPair(s.tubes)...)
+	case "with":
+		return tellClashes("none", everyOther(s.tubes, s.hand)...)
+	case "free":
+		if impl.ProbeTubeOk(s.hand) && len(everyOther(s.tubes, s.hand)) == 0 {
+			return "yes"
+		}
+		return "no"
+	case "meet NAME NAME":
+		return s.meet(words[0], words[1])
+	case "cut N":
+		s.hand = impl.ProbeCut(s.hand, n[0])
+		return strconv.Itoa(len(s.hand.Boxes))
+	}
+	return "bad"
+}
+
+func (s *teller) happen(e impl.ProbeEvent) string {
+	behind, code := happenBy(s.tubes, e)
+	s.tubes = behind
+	return "code " + strconv.Itoa(code)
+}
+
+func (s *teller) meet(a string, b string) string {
+	var p, q *impl.ProbeTube
+	for i, t := range s.tubes {
+		if t.Name == a {
+			p = &s.tubes[i]
+		}
+		if t.Name == b {
+			q = &s.tubes[i]
+		}
+	}
+	if p == nil || q == nil {
+		return "none"
+	}
+	if clash, near := impl.ProbeMeet(*p, *q); near {
+		return tellClashes("", clash)
+	}
+	return "never"
+}
+
+func tellClashes(none string, clashes ...impl.ProbeClash) string {
+	told := ""
+	for i, c := range clashes {
+		if i > 0 {
+			told += " "
+		}
+		told += fmt.Sprintf("%s/%s@%d:%d,%d", c.A, c.B, c.Tick, c.I, c.J)
+	}
+	if told == "" {
+		return none
+	}
+	return told
+}
+
+// linesIn takes line after line from a text until nothing is left.
+func linesIn(text string) []string {
+	var lines []string
+	for text != "" {
+		line, rest, _ := strings.Cut(text, "\n")
+		lines, text = append(lines, line), rest
+	}
+	return lines
+}
+
+// sessionBy is what a session is answered by the table.
+func sessionBy(text string) string {
+	lines := linesIn(text)
+	if len(text) > 20000 || len(lines) > 400 {
+		return "too long\n"
+	}
+	var s teller
+	var told strings.Builder
+	for _, line := range lines {
+		told.WriteString(s.answer(line) + "\n")
+	}
+	return told.String()
 }
 
 // sameTube takes the empty list and the nil list for the same.
